@@ -82,12 +82,26 @@ func pair(outer, inner api.Rule, path []int) (api.CriticalPair, api.Errno) {
 	if err != api.OK {
 		return api.CriticalPair{}, err
 	}
-	peak, err1 := unify.Apply(s, outer.Left)
-	part, err2 := unify.Apply(s, inner.Right)
-	right, err3 := unify.Apply(s, outer.Right)
-	if err1 != api.OK || err2 != api.OK || err3 != api.OK {
+	bound := bindings{}
+	for _, b := range s {
+		bound[b.Name] = b.T
+	}
+	peak, fits1 := applied(bound, outer.Left)
+	part, fits2 := applied(bound, inner.Right)
+	right, fits3 := applied(bound, outer.Right)
+	if !fits1 || !fits2 || !fits3 {
 		return api.CriticalPair{}, api.ErrFull
 	}
 	left, err := term.Replace(peak, path, part)
 	return api.CriticalPair{Peak: peak, Left: left, Right: right, Path: path}, err
+}
+
+// applied returns a copy of t with the variables that are bound replaced, and whether it fits. A unifier may bind more
+// variables than a substitution of layer 5.
+func applied(b bindings, t api.Term) (api.Term, bool) {
+	r := instance(t, b)
+	if size(r) > api.MaxSize || depth(r) > api.MaxNest {
+		return api.Term{}, false
+	}
+	return copied(r), true
 }

@@ -105,10 +105,13 @@ func (b bindings) match(pattern, t api.Term) bool {
 	return !isVariable(t) && pattern.Name == t.Name && slices.EqualFunc(pattern.L, t.L, b.match)
 }
 
-// instance returns t with its variables replaced.
+// instance returns t with the variables that are bound replaced.
 func instance(t api.Term, b bindings) api.Term {
 	if isVariable(t) {
-		return b[t.Name]
+		if u, bound := b[t.Name]; bound {
+			return u
+		}
+		return t
 	}
 	r := api.Term{Name: t.Name}
 	for _, part := range t.L {

@@ -211,6 +211,9 @@ func TestUnifyLimits(t *testing.T) {
 	if s, err := deep(30, api.MaxNest-30); err != api.ErrFull || len(s) != 0 {
 		t.Error(s, err)
 	}
+	if s, err := unify.Unify(variable("x", "s"), bush(api.MaxSize, always(variable("y", "s")))); err != api.OK || term.Size(s[0].T) != api.MaxSize {
+		t.Error(len(s), err)
+	}
 	// Only what variables become is limited, not what both terms become.
 	x := variable("x", "s")
 	most := bush(900, always(op("c")))
