@@ -91,7 +91,7 @@ func badExprs() []api.Expr {
 		shared = x(api.XAdd, l...)
 	}
 	l := []api.Expr{
-		{}, {Op: -1}, {Op: api.XLog + 1}, {Op: 100}, num(-1), num(api.MaxInt + 1), {Op: api.XInt, S: "a"}, x(api.XInt, a), boolean(2), boolean(-1), {Op: api.XBool, S: "a"}, x(api.XBool, a),
+		{}, {Op: -1}, {Op: api.XLog + 1}, {Op: 100}, x(100, a, a), x(0, a, a), x(-1, a, a), x(api.XLog+1, a, a), num(-1), num(api.MaxInt + 1), {Op: api.XInt, S: "a"}, x(api.XInt, a), boolean(2), boolean(-1), {Op: api.XBool, S: "a"}, x(api.XBool, a),
 		{Op: api.XNil, N: 1}, {Op: api.XNil, S: "a"}, x(api.XNil, a), name(""), name("if"), name("1"), name(long() + "n"), {Op: api.XName, S: "a", N: 1}, {Op: api.XName, S: "a", L: []api.Expr{a}},
 		fresh(""), fresh("this"), fresh("int"), {Op: api.XNew, S: "T", N: 1}, {Op: api.XNew, S: "T", L: []api.Expr{a}}, field(a, ""), field(a, "this"), {Op: api.XField, S: "f"}, {Op: api.XField, S: "f", L: []api.Expr{a, a}}, {Op: api.XField, S: "f", N: 1, L: []api.Expr{a}},
 		call(""), call("this"), call("max"), {Op: api.XCall, S: "p", N: 1}, call("p", a, a, a, a, a, a, a), x(api.XNeg), x(api.XNeg, a, a), x(api.XNot), x(api.XLog, a, a), x(api.XIf, a, a), x(api.XIf, a, a, a, a),

@@ -116,6 +116,11 @@ func TestText(t *testing.T) {
 	if s, err := ast.Text(api.Desc{Name: "d"}); s != "desc d {\n}\n" || err != api.OK {
 		t.Error(s, err)
 	}
+	one := inProc(when(name("a"), stmts(ret()), stmts(set("b", num(1)))))
+	one.Types = []api.NodeType{{Name: "T", Fields: []api.Field{{Name: "f", Type: "bool"}}}}
+	if s, err := ast.Text(one); s != "desc d {\ntype T { f bool }\nproc p() {\n\tif a {\n\t\treturn;\n\t} else {\n\t\tb = 1;\n\t}\n}\n}\n" || err != api.OK {
+		t.Error(s, err)
+	}
 	if s, err := ast.Text(api.Desc{}); s != "" || err != api.ErrArg {
 		t.Error(s, err)
 	}

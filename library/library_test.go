@@ -83,6 +83,10 @@ func TestSources(t *testing.T) {
 		if d, _ := library.Load(s.name); !ast.Same(d, want) {
 			t.Error("results share memory")
 		}
+		// The texts are written as layer 9 writes descriptions.
+		if again, err := ast.Text(want); again != text || err != api.OK {
+			t.Error(s.name, err)
+		}
 		if place, i, err := typecheck.Check(want); err != api.OK {
 			t.Error(s.name, place, i, err)
 		}

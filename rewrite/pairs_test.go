@@ -90,6 +90,10 @@ func TestPairsErrors(t *testing.T) {
 	if p, err := rewrite.Pairs([]api.Rule{{Left: op("f", variable("x", "s")), Right: big}, {Left: op("f", op("d")), Right: op("c")}}); err != api.OK || len(p) != 1 {
 		t.Error(len(p), err)
 	}
+	most := bush(api.MaxSize, op("d"))
+	if p, err := rewrite.Pairs([]api.Rule{{Left: most, Right: op("a")}, {Left: most, Right: most}}); err != api.OK || len(p) != 1 || term.Size(p[0].Left) != api.MaxSize {
+		t.Error(len(p), err)
+	}
 	// 45 rules with equal Left sides have 990 pairs, 46 have 1,035.
 	if p, err := rewrite.Pairs(repeat(rules(t, "a() = b()")[0], 45)); err != api.OK || len(p) != 990 {
 		t.Error(len(p), err)

@@ -120,6 +120,11 @@ func TestStepErrors(t *testing.T) {
 	if r, _, err := rewrite.Step(double, op("f", bush(499, op("c")))); err != api.OK || term.Size(r) != 999 {
 		t.Error(term.Size(r), err)
 	}
+	exact := rules(t, "f(x:s) = g(x:s, x:s, c())")
+	if r, _, err := rewrite.Step(exact, op("f", bush(499, op("c")))); err != api.OK || term.Size(r) != api.MaxSize {
+		t.Error(term.Size(r), err)
+	}
+	want(exact, op("q", op("f", bush(499, op("c")))), api.ErrFull)
 	want(double, op("q", op("f", bush(499, op("c"))), op("c")), api.ErrFull)
 	want(double, tower(20, op("h", tower(api.MaxNest-22, op("c")))), api.ErrFull)
 	if r, _, err := rewrite.Step(double, tower(20, op("h", tower(api.MaxNest-23, op("c"))))); err != api.OK || term.Depth(r) != api.MaxNest {
