@@ -38,7 +38,7 @@ func TestExpressions(t *testing.T) {
 		{"i", 7, 0, 0}, {"c", 10, 0, 0}, {"12", 12, 0, 0}, {"-i", -7, 0, 0}, {"i + j", 4, 0, 0}, {"i - j", 10, 0, 0}, {"i * j", -21, 0, 0}, {"i / j", -2, 0, 0}, {"i % j", 1, 0, 0}, {"-i / 2", -3, 0, 0}, {"-i % 2", -1, 0, 0}, {"-i / j", 2, 0, 0}, {"max(i, j)", 7, 0, 0}, {"min(i, j)", -3, 0, 0},
 		{"log(i)", 2, 0, 0}, {"log(8)", 3, 0, 0}, {"log(1)", 0, 0, 0}, {"log(0)", 0, 0, 0}, {"log(j)", 0, 0, 0}, {"log(1099511627776)", 40, 0, 0},
 		{"q.k", 5, 0, 1}, {"q.n.k", 6, 0, 2}, {"u.t.k", 6, 0, 2}, {"r.k", 5, 0, 1}, {"new T.k", 0, 0, 2},
-		{"if(i == 7, 1, 2)", 1, 1, 0}, {"if(i != 7, 1, 2)", 2, 1, 0}, {"if(j < i, 1, 2)", 1, 1, 0}, {"if(i <= i, 1, 2)", 1, 1, 0}, {"if(i < i, 1, 2)", 2, 1, 0}, {"if(q == r, 1, 2)", 1, 0, 0}, {"if(q != r.n, 1, 2)", 1, 0, 1}, {"if(x == b, 1, 2)", 1, 0, 0}, {"if(nil == nil, 1, 2)", 1, 0, 0}, {"if(q.n.n == nil, 1, 2)", 1, 0, 2}, {"if(q.k == r.n.k, 1, 2)", 2, 1, 3}, {"if(q.on != x, 1, 2)", 2, 0, 1},
+		{"if(i == 7, 1, 2)", 1, 1, 0}, {"if(i != 7, 1, 2)", 2, 1, 0}, {"if(j < i, 1, 2)", 1, 1, 0}, {"if(i <= i, 1, 2)", 1, 1, 0}, {"if(i < i, 1, 2)", 2, 1, 0}, {"if(q == r, 1, 2)", 1, 0, 0}, {"if(q != r.n, 1, 2)", 1, 0, 1}, {"if(x == b, 1, 2)", 1, 0, 0}, {"if(nil == nil, 1, 2)", 1, 0, 0}, {"if(q.n.n == nil, 1, 2)", 1, 0, 2}, {"if(q.k == r.n.k, 1, 2)", 2, 1, 3}, {"if(q.on != x, 1, 2)", 2, 0, 1}, {"if((not x) == b, 1, 2)", 2, 0, 0}, {"if(-i == j, 1, 2)", 2, 1, 0}, {"if(log(i) != 2, 1, 2)", 2, 1, 0}, {"if((i < j) == (j < i), 1, 2)", 2, 2, 0}, {"if((x and b) != b, 1, 2)", 2, 0, 0}, {"if(max(i, j) == i + 0, 1, 2)", 1, 1, 0}, {"if(true == x, 1, 2)", 1, 0, 0}, {"if(7 == i, 1, 2)", 1, 1, 0}, {"if(c == 10, 1, 2)", 1, 1, 0}, {"if(b == x, 1, 2)", 1, 0, 0},
 		{"if(if(x, i, j) == 7, 1, 2)", 1, 1, 0}, {"if(if(x, nil, q) == nil, 1, 2)", 1, 0, 0},
 		{"if(x and i == j, 1, 2)", 2, 1, 0}, {"if(not x and i == j, 1, 2)", 2, 0, 0}, {"if(x or i == j, 1, 2)", 1, 0, 0}, {"if(not x or i == j, 1, 2)", 2, 1, 0}, {"if(true and false, 1, 2)", 2, 0, 0}, {"if(false or true, 1, 2)", 1, 0, 0}, {"if(not false, 1, 2)", 1, 0, 0}, {"if(x, i, q.n.n.k)", 7, 0, 0}, {"if(x and (i < j or j < i), i, 1 / 0)", 7, 2, 0},
 	} {
@@ -88,6 +88,11 @@ func TestCalls(t *testing.T) {
 		proc step(n int) int { c = c * 10 + n; return c; }
 		proc add(x int, y int) int { c = c * 10; return x + y; }
 		proc eq() int { return if(fact(3) == fact(3), if(link(nil) == nil, 1, 2), 3); }
+		proc eq1() int { return if(fact(3) == 6, 1, 2); }
+		proc eq2() int { return if(link(nil) == nil, 1, 2); }
+		proc flag(b bool) bool { return not b; }
+		proc eq3(b bool) int { return if(flag(b) == b, 1, if(flag(b) != true, 2, 3)); }
+		proc often(n int) int { while 0 < n { flag(true); n = n - 1; } return fact(2); }
 		proc down(n int) int { return if(n == 0, 0, down(n - 1)); }`)
 	for _, c := range []struct {
 		call api.Call
@@ -101,6 +106,11 @@ func TestCalls(t *testing.T) {
 		{call("three"), empty(), outcome(api.OK, 21, 0, 9), mem([]int{2, 0, 0, 0}, node(0, 1, 0, 0), node(0, 2, 1, 0))},
 		{call("order"), empty(), outcome(api.OK, 1+12+123, 0, 0), mem([]int{0, 12300, 0, 0})},
 		{call("eq"), empty(), outcome(api.OK, 2, 7, 6), mem([]int{0, 0, 0, 0}, node(0, 1, 0, 0), node(0, 2, 1, 0))},
+		{call("eq1"), empty(), outcome(api.OK, 1, 4, 0), empty()},
+		{call("eq2"), empty(), outcome(api.OK, 2, 0, 6), mem([]int{0, 0, 0, 0}, node(0, 1, 0, 0), node(0, 2, 1, 0))},
+		{call("eq3", 1), empty(), outcome(api.OK, 2, 0, 0), empty()},
+		{call("eq3", 0), empty(), outcome(api.OK, 3, 0, 0), empty()},
+		{call("often", 1000), empty(), outcome(api.OK, 2, 1003, 0), empty()},
 		{call("link", 2), start(), outcome(api.OK, 5, 0, 6), mem(start().Globals, append(start().Nodes, node(0, 1, 2, 0), node(0, 2, 4, 0))...)},
 		{call("push", 0, -5), start(), outcome(api.OK, 4, 0, 3), mem(start().Globals, append(start().Nodes, node(0, -5, 0, 0))...)},
 		{call("down", api.MaxCalls-1), empty(), outcome(api.OK, 0, api.MaxCalls, 0), empty()},
