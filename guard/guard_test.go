@@ -115,6 +115,16 @@ func TestRun(t *testing.T) {
 	if o, _, v, err := guard.Run(d, m, call("key", 1), []string{"counted"}, 100); v != violation("counted", 0) || err != api.OK || o.Fault != api.ErrBroken {
 		t.Error(v, err)
 	}
+	// Only the nodes of the type of the invariant are asked.
+	types := parse(t, "desc d { type A { b B; k int } type B { k bool; a A } var r A proc p() { } invariant odd(B) = this.k invariant low(A) = this.k < 5 }")
+	for _, c := range []struct {
+		m    api.Mem
+		want api.Violation
+	}{{mem([]int{1}, node(0, 2, 3), node(1, 1, 3), node(0, 0, 4)), api.Violation{}}, {mem([]int{1}, node(0, 2, 3), node(1, 0, 3), node(0, 0, 7)), violation("odd", 2)}, {mem([]int{1}, node(0, 2, 3), node(1, 1, 3), node(0, 0, 7)), violation("low", 3)}} {
+		if _, _, v, err := guard.Run(types, c.m, call("p"), []string{"odd", "low"}, 9); v != c.want || err != api.OK {
+			t.Error(c, v, err)
+		}
+	}
 	if o, _, v, err := guard.Run(d, two(), call("push", 9), []string{"sorted"}, 3); v != (api.Violation{}) || err != api.OK || o.Fault != api.ErrFuel {
 		t.Error(o, v, err)
 	}

@@ -50,7 +50,7 @@ func TestSimpleInvariants(t *testing.T) {
 func TestSimpleProcedures(t *testing.T) {
 	for body, want := range map[string]bool{
 		"": true, "return;": true, "c = 1;": true, "c = i + 1; i = c - -1000; r = nil; r = x; x = r.n; r = new T;": true, "x.lo = x.hi + 3; x.n = x.n.n; x.n.u = new U; r.n.n = r;": true, "if true { } else { c = 2; }": true, "if not (i < 3 and x.lo <= c or false) { if x == nil { } }": true, "if x.n != r.n { if x.lo != 3 { } if nil == nil { } }": true, "if c + 1 == i - 1 { c = i; }": true,
-		"c = 1001;": false, "c = 1 + i;": false, "c = i + i;": false, "c = -i;": false, "c = i * 1;": false, "c = i + 1 + 1;": false, "c = max(i, 1);": false, "b = true;": false, "b = i < 3;": false, "b = b;": false, "x.on = true;": false, "if b { }": false, "if x.on { }": false, "if b == b { }": false, "if true == false { }": false, "while true { }": false, "if false { while false { } }": false, "p(1, nil);": false, "r = if(true, x, x);": false, "c = new T.lo;": false, "new T.lo = 3;": false, "if new T == nil { }": false, "if i < i * 2 { }": false, "c = log(1);": false, "if 1 < 2 { } else { c = i % 2; }": false, "new T.n.lo = 1;": false, "c = 1000; c = -1000;": true,
+		"c = 1001;": false, "c = 1 + i;": false, "c = i + i;": false, "c = -i;": false, "c = i * 1;": false, "c = i + 1 + 1;": false, "c = max(i, 1);": false, "b = true;": false, "b = i < 3;": false, "b = b;": false, "x.on = true;": false, "if b { }": false, "if x.on { }": false, "if b == b { }": false, "if true == false { }": false, "while true { }": false, "if false { while false { } }": false, "p(1, nil);": false, "r = if(true, x, x);": false, "c = new T.lo;": false, "new T.lo = 3;": false, "if new T == nil { }": false, "if i < i * 2 { }": false, "c = log(1);": false, "if 1 < 2 { } else { c = i % 2; }": false, "if b and true { }": false, "if true and b { }": false, "if b or true { }": false, "if true or b { }": false, "if not b { }": false, "if i * 2 < i { }": false, "if i * 2 <= i { }": false, "if i <= i * 2 { }": false, "if i * 2 == i { }": false, "if i == i * 2 { }": false, "if i * 2 != i { }": false, "if nil == new T { }": false, "if new T != x { }": false, "new T.n.lo = 1;": false, "c = 1000; c = -1000;": true,
 	} {
 		got, err := verify.Simple(with(t, "i int, x T", body, interval), "p", "i")
 		if got != want || err != api.OK {
@@ -120,7 +120,13 @@ func TestPaths(t *testing.T) {
 	wantPaths(t, "x T", "x.n.lo = x.u.k; if x.u.t == x { }", "1110 1111 1112 1120 1121 1122 1123")
 	wantPaths(t, "", "local x T; x.lo = 1;", "")
 	wantPaths(t, "i int", "if true { c = i; } if false { if i < 3 { } } if not true or not (i < 3) { }", "0 1")
-	// An ends return comes before what would fault.
+	wantPaths(t, "i int", "if i == 3 and c < 4 { }", "00 01 1 2")
+	wantPaths(t, "i int", "if i == 3 or c < 4 { }", "0 10 11 20 21")
+	wantPaths(t, "i int", "if true { } else { if i < 3 { } }", "")
+	wantPaths(t, "i int", "if false { if i < 3 { } }", "")
+	wantPaths(t, "i int", "if i != 3 { if c < 4 { } }", "0 10 11 20 21")
+	wantPaths(t, "i int", "if not (i < 3) { if c == 4 { } }", "00 01 02 1")
+	// A return comes before what would fault.
 	wantPaths(t, "x T, i int", "if i < 0 { return; } x.lo = 1; return; x.hi = 2;", "01 1")
 	// In an SPut the node is resolved after the value was evaluated.
 	wantPaths(t, "x T, y U", "x.lo = y.k; if x == nil { }", "11")
@@ -150,7 +156,8 @@ func TestPathLimits(t *testing.T) {
 	if l, err := verify.Paths(with(t, "i int", exact, interval), "p"); err != api.OK || len(l) != 300 {
 		t.Error(len(l), err)
 	}
-	over := strings.Replace(exact, branches(2, 0), branches(2, 1), 1)
+	five := "if i < 3 { } else { if i < 4 { } else { if i < 5 { } else { if i < 6 { } } } }"
+	over := strings.Replace(exact, "{ "+branches(2, 0)+" }", "{ "+five+" }", 1)
 	d = with(t, "i int", over, interval)
 	if l, err := verify.Paths(d, "p"); err != api.ErrLimit || len(l) != 0 {
 		t.Error(len(l), err)
@@ -418,6 +425,16 @@ func TestCheckOfProofs(t *testing.T) {
 			t.Error("turned", i)
 		}
 	}
+	// Cycles may be long, but not too long.
+	rounds := api.MaxList / len(v.Proof[0].Cycle)
+	for n, want := range map[int]bool{rounds: true, rounds + 1: false} {
+		w := v
+		w.Proof = slices.Clone(v.Proof)
+		w.Proof[0].Cycle = slices.Repeat(v.Proof[0].Cycle, n)
+		if verify.Check(d, "p", "i", w) != want {
+			t.Error("a cycle of the length", len(w.Proof[0].Cycle))
+		}
+	}
 	for _, change := range []func(v *api.Verdict){
 		func(v *api.Verdict) { v.Proof = append(slices.Clone(v.Proof), v.Proof[8]) }, func(v *api.Verdict) { v.Kind = api.Unknown }, func(v *api.Verdict) { v.Kind = api.Refuted }, func(v *api.Verdict) { v.Kind = 0 }, func(v *api.Verdict) { v.Args = []int{1} }, func(v *api.Verdict) { v.Mem.Globals = []int{0} }, func(v *api.Verdict) { v.Mem.Nodes = make([]api.Node, 1) }, func(v *api.Verdict) { v.Proof = nil }, func(v *api.Verdict) { *v = api.Verdict{Kind: api.Unknown} },
 	} {
@@ -457,6 +474,46 @@ func TestConstraintsOfGoals(t *testing.T) {
 	}
 }
 
+// The choices of comparisons, told by cycles of the constraints of the path alone.
+func TestConstraintsOfChoices(t *testing.T) {
+	for _, c := range []struct {
+		cond string
+		path []int
+		want bool
+	}{
+		// 1: less, and then not less; 2: greater, and then less; and so on.
+		{"x.lo == i", []int{1, 1, 0}, true}, {"x.lo == i", []int{1, 1, 1}, false}, {"x.lo == i", []int{1, 2, 1}, true}, {"x.lo == i", []int{1, 2, 0}, false}, {"x.lo != i", []int{1, 1, 0}, true}, {"x.lo != i", []int{1, 2, 1}, true}, {"x.lo != i", []int{1, 2, 0}, false},
+		{"x.lo < i", []int{1, 1, 0}, true}, {"x.lo < i", []int{1, 0, 1}, true}, {"x.lo < i", []int{1, 0, 0}, false}, {"x.lo <= i", []int{1, 0, 1}, true}, {"x.lo <= i", []int{1, 1, 1}, false}, {"x.lo <= i", []int{1, 1, 0}, false}, {"i <= x.lo", []int{1, 0, 0}, true}, {"i <= x.lo", []int{1, 1, 1}, true},
+	} {
+		d := with(t, "x T, i int", "if "+c.cond+" { } if x.lo < i { }", interval)
+		v, err := verify.Prove(d, "p", "i")
+		if err != api.OK || v.Kind != api.Proved {
+			t.Fatal(c, v, err)
+		}
+		at := slices.IndexFunc(v.Proof, func(r api.Refutation) bool { return slices.Equal(r.Path, c.path) })
+		if at < 0 {
+			t.Fatal(c, v.Proof)
+		}
+		v.Proof[at].Cycle = []int{0, 1}
+		if verify.Check(d, "p", "i", v) != c.want {
+			t.Error(c)
+		}
+	}
+}
+
+func TestGoalsOfGlobals(t *testing.T) {
+	d := with(t, "i int", "if i < m { c = i; }", " = c < m and c == c")
+	v, err := verify.Prove(d, "p", "i")
+	if err != api.OK || v.Kind != api.Proved || len(v.Proof) != 6 {
+		t.Fatal(v, err)
+	}
+	for i, r := range v.Proof {
+		if r.Node != 0 || !slices.Equal(r.Path, []int{i / 3}) || [2]int{r.Atom, r.Case} != [][2]int{{0, 0}, {1, 0}, {1, 1}}[i%3] {
+			t.Error(i, r)
+		}
+	}
+}
+
 // P17.4: counterexamples that are changed are none.
 func TestCheckOfCounterexamples(t *testing.T) {
 	d := parse(t, head+"proc p(x T) { x.hi = x.hi - 1; } invariant i(T) = this.lo <= this.hi invariant plain(T) = this.on invariant other(U) = this.k < 9 invariant same = c == m }")
@@ -490,6 +547,14 @@ func TestCheckOfCounterexamples(t *testing.T) {
 		change(&v)
 		if verify.Check(d, "p", "i", v) {
 			t.Error(i)
+		}
+	}
+	// The run must not fault, though the invariant is broken by then.
+	faulting := parse(t, head+"proc p(x T) { x.hi = x.hi - 1; c = r.lo; } invariant i(T) = this.lo <= this.hi }")
+	for first, want := range map[int]bool{0: false, 1: true} {
+		v := api.Verdict{Kind: api.Refuted, Mem: api.Mem{Globals: []int{first, 0, 0, 0}, Nodes: []api.Node{{F: make([]int, 5)}}}, Args: []int{1}}
+		if verify.Check(faulting, "p", "i", v) != want {
+			t.Error("a fault", first)
 		}
 	}
 	// A node that is not reached may be broken, too.

@@ -279,7 +279,7 @@ func TestValid(t *testing.T) {
 	}
 	bad = append(bad,
 		func(m *api.Machine) { m.Frames = m.Frames[1:2]; m.Frames[0].Stack = m.Frames[0].Stack[:1] }, func(m *api.Machine) { m.Frames = m.Frames[:1] }, func(m *api.Machine) { m.Frames = nil }, func(m *api.Machine) { m.Frames[0], m.Frames[1] = m.Frames[1], m.Frames[0] },
-		func(m *api.Machine) { m.Frames[0].At = 2 }, func(m *api.Machine) { m.Frames[0].At = 0 }, func(m *api.Machine) { m.Frames[1].At = 3 }, func(m *api.Machine) { m.Frames[1].At = 8 }, func(m *api.Machine) { m.Frames[1].At = -1 }, func(m *api.Machine) { m.Frames[1].At = 1 << 60 },
+		func(m *api.Machine) { m.Frames[1].Func = 4 }, func(m *api.Machine) { m.Frames[0].Func = 4 }, func(m *api.Machine) { m.Frames[0].At = 2 }, func(m *api.Machine) { m.Frames[0].At = 0 }, func(m *api.Machine) { m.Frames[1].At = 3 }, func(m *api.Machine) { m.Frames[1].At = 8 }, func(m *api.Machine) { m.Frames[1].At = -1 }, func(m *api.Machine) { m.Frames[1].At = 1 << 60 },
 		func(m *api.Machine) { m.Frames[0].Locals = m.Frames[0].Locals[:1] }, func(m *api.Machine) { m.Frames[1].Locals = append(m.Frames[1].Locals, 0) }, func(m *api.Machine) { m.Frames[1].Stack = append(m.Frames[1].Stack, 0) }, func(m *api.Machine) { m.Frames[1].Stack = nil }, func(m *api.Machine) { m.Frames[0].Stack = nil }, func(m *api.Machine) { m.Frames[0].Stack = append(m.Frames[0].Stack, 0) },
 		// The instruction has no height.
 		func(m *api.Machine) {
