@@ -93,7 +93,7 @@ func pair(outer, inner api.Rule, path []int) (api.CriticalPair, api.Errno) {
 		return api.CriticalPair{}, api.ErrFull
 	}
 	left, err := term.Replace(peak, path, part)
-	return api.CriticalPair{Peak: peak, Left: left, Right: right, Path: path}, err
+	return api.CriticalPair{Peak: peak, Left: left, Right: right, Path: slices.Clone(path)}, err
 }
 
 // applied returns a copy of t with the variables that are bound replaced, and whether it fits. A unifier may bind more

@@ -188,6 +188,15 @@ func TestSidesOfPairs(t *testing.T) {
 }
 
 func TestPairsAreNew(t *testing.T) {
+	// Two pairs with the same path.
+	two, err := rewrite.Pairs(rules(t, "f(a()) = b()", "a() = c()", "a() = d()"))
+	if err != api.OK || len(two) != 3 {
+		t.Fatal(len(two), err)
+	}
+	two[0].Path[0] = 99
+	if !slices.Equal(two[1].Path, []int{0}) {
+		t.Error("paths share memory")
+	}
 	l := rules(t, "f(g(a(b())), x:s) = h(x:s, c(d()))", "a(y:s) = k(y:s, e(d()))")
 	pairs, _ := rewrite.Pairs(l)
 	want := show(pairs[0])
