@@ -363,6 +363,11 @@ func TestWorst(t *testing.T) {
 	if l, _, err := amortized.Worst(d, list(), choices[1:2], 12, 5); err != api.OK || len(l) != 12 {
 		t.Error(l, err)
 	}
+	for fuel, want := range map[int]int{0: 0, 1: 3, api.MaxFuel: 3} {
+		if l, sum, err := amortized.Worst(d, list(1), choices[:1], 1, fuel); err != api.OK || len(l) != 1 || sum != want {
+			t.Error(fuel, l, sum, err)
+		}
+	}
 	if l, sum, err := amortized.Worst(d, list(1), slices.Repeat(choices[:1], 64), 2, 100); err != api.OK || len(l) != 2 || sum != 6 {
 		t.Error(l, sum, err)
 	}
