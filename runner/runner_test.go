@@ -203,6 +203,22 @@ func TestFaults(t *testing.T) {
 	if i, res, _, err := runner.Script(deep, ops(t, "splay", "get -449", "size", "get -1")); err != api.OK || res[0].Err != api.ErrDepth || res[1].N != 450 || res[2].N != 1 || same(i, before) {
 		t.Error(res, err)
 	}
+	// A rope that is so deep that an insertion faults, after it has changed a global variable.
+	rope := api.Instance{Name: "rope", Mem: api.Mem{Globals: []int{1, 0, 0, 7}}}
+	for k := range 300 {
+		rope.Mem.Nodes = append(rope.Mem.Nodes, node(0, 0, 300-k, 0, 0, (k+2)%301, 0))
+	}
+	if d, _ := library.Load("rope"); !runner.Valid(rope) {
+		t.Fatal("not valid")
+	} else if _, m, err := eval.Run(d, rope.Mem, api.Call{Proc: "insert", Args: []int{0, 5}}, 100000); err != api.OK || m.Globals[3] == 7 {
+		t.Fatal("the call must change the memory", err)
+	}
+	if i, res, _, err := runner.Do(rope, op(t, "rope", "insert 0 5")); err != api.OK || res.Err != api.ErrDepth || !same(i, rope) {
+		t.Error(res, err)
+	}
+	if i, res, _, err := runner.Script(rope, ops(t, "rope", "insert 0 5", "size")); err != api.OK || res[0].Err != api.ErrDepth || res[1].N != 300 || !same(i, rope) {
+		t.Error(res, err)
+	}
 	full := api.Instance{Name: "list", Mem: api.Mem{Globals: []int{1, api.MaxNodes}}}
 	for k := range api.MaxNodes {
 		full.Mem.Nodes = append(full.Mem.Nodes, node(k, k, (k+2)%(api.MaxNodes+1)))

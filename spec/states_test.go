@@ -23,7 +23,7 @@ func TestEncode(t *testing.T) {
 		{state(api.Seq), "empty()"}, {state(api.Seq, []int{1}, []int{0}), "cons(s(zero()), cons(zero(), empty()))"},
 		{state(api.Sets), "empty()"}, {state(api.Sets, []int{0, 2}, []int{1}), "class(cons(zero(), cons(s(s(zero())), end())), class(cons(s(zero()), end()), empty()))"},
 		{state(api.Range), "empty()"}, {state(api.Range, []int{0, 1, 2}, []int{1, 0, 0}), "more(pt(zero(), s(zero()), s(s(zero()))), more(pt(s(zero()), zero(), zero()), empty()))"},
-		{state(api.Text), "empty()"}, {state(api.Text, []int{1, 0, 1}), "char(s(zero()), char(zero(), char(s(zero()), empty())))"},
+		{state(api.Heap, []int{12}), "item(" + text(numeral(12)) + ", empty())"}, {state(api.Text), "empty()"}, {state(api.Text, []int{1, 0, 1}), "char(s(zero()), char(zero(), char(s(zero()), empty())))"},
 	} {
 		x, err := spec.Encode(c.s)
 		if err != api.OK || text(x) != c.want {
