@@ -45,6 +45,9 @@ func TestPairs(t *testing.T) {
 		"0 2 .0: f(g(a()), x_1:s) | f(h(a()), x_1:s) | x_1:s", "0 1 .0 .0: f(g(a()), x_1:s) | f(g(b()), x_1:s) | x_1:s")
 	wantPairs(t, rules(t, "f(x:s, c()) = x:s", "f(c(), x:s) = g(x:s)"), "0 1: f(c(), c()) | g(c()) | c()")
 	wantPairs(t, rules(t, "f(x:s, y:s) = p(x:s, y:s)", "f(y:s, x:s) = q(y:s, x:s)"), "0 1: f(x_1:s, x_2:s) | q(x_1:s, x_2:s) | p(x_1:s, x_2:s)")
+	wantPairs(t, rules(t, "a() = b()", "f(f(f(f(a(), a()), a())), a()) = c()"),
+		"1 0 .0 .0 .0 .0: f(f(f(f(a(), a()), a())), a()) | f(f(f(f(b(), a()), a())), a()) | c()", "1 0 .0 .0 .0 .1: f(f(f(f(a(), a()), a())), a()) | f(f(f(f(a(), b()), a())), a()) | c()",
+		"1 0 .0 .0 .1: f(f(f(f(a(), a()), a())), a()) | f(f(f(f(a(), a()), b())), a()) | c()", "1 0 .1: f(f(f(f(a(), a()), a())), a()) | f(f(f(f(a(), a()), a())), b()) | c()")
 	// Variables of different sorts become no common term.
 	wantPairs(t, rules(t, "f(x:s) = a()", "f(y:t) = b()"))
 	wantPairs(t, rules(t, "f(x:s, x:s) = a()", "f(y:t, c()) = b()"), "0 1: f(c(), c()) | b() | a()")
@@ -188,6 +191,16 @@ func TestSidesOfPairs(t *testing.T) {
 }
 
 func TestPairsAreNew(t *testing.T) {
+	// What a variable becomes stands at several places.
+	many, _ := rewrite.Pairs(rules(t, "f(g(x:s), x:s) = h(x:s, x:s)", "g(k(m(c()))) = g(c())"))
+	if len(many) != 1 || text(many[0].Peak) != "f(g(k(m(c()))), k(m(c())))" {
+		t.Fatal(many)
+	}
+	spoil(many[0].Peak.L[1])
+	spoil(many[0].Right.L[0])
+	if text(many[0].Peak.L[0]) != "g(k(m(c())))" || text(many[0].Right.L[1]) != "k(m(c()))" || text(many[0].Left) != "f(g(c()), k(m(c())))" {
+		t.Error("parts share memory")
+	}
 	// Two pairs with the same path.
 	two, err := rewrite.Pairs(rules(t, "f(a()) = b()", "a() = c()", "a() = d()"))
 	if err != api.OK || len(two) != 3 {

@@ -165,6 +165,7 @@ func TestCompose(t *testing.T) {
 	wantCompose(t, l("y", "s", "g(x:s)"), l("x", "s", "g(y:s)", "y", "s", "c()"), l("x", "s", "g(y:s)", "y", "s", "g(g(y:s))"))
 	wantCompose(t, l("x", "s", "c()"), l("x", "t", "g(c())"), l("x", "s", "c()"))
 	wantCompose(t, l("b", "s", "c()", "d", "s", "a:s"), l("a", "s", "e:s", "c", "s", "d()"), l("a", "s", "e:s", "b", "s", "c()", "c", "s", "d()", "d", "s", "e:s"))
+	wantCompose(t, l("x", "s", "g(g(y:s))"), l("z", "t", "f(g(h(y:s)), c())"), l("x", "s", "g(g(y:s))", "z", "t", "f(g(h(y:s)), c())"))
 	wantCompose(t, l("x", "s", "y:s", "z", "s", "y:s"), l("y", "s", "x:s"), l("y", "s", "x:s", "z", "s", "x:s"))
 }
 

@@ -25,6 +25,7 @@ func TestMatch(t *testing.T) {
 		{"f(x:s, y:s)", "f(y:s, x:s)", []string{"x", "s", "y:s", "y", "s", "x:s"}},
 		{"f(x:s, y:s)", "f(x:s, x:s)", []string{"y", "s", "x:s"}},
 		{"f(x:s, g(z:t), x:s)", "f(h(a:s), g(c()), h(a:s))", []string{"x", "s", "h(a:s)", "z", "t", "c()"}},
+		{"f(x:s)", "f(h(k(m(a:s), b()), c()))", []string{"x", "s", "h(k(m(a:s), b()), c())"}},
 		{"f(b:s, a:s)", "f(c(), d())", []string{"a", "s", "d()", "b", "s", "c()"}},
 	} {
 		p, x := parse(t, c.p), parse(t, c.x)

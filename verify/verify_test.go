@@ -391,6 +391,11 @@ func TestCheckOfProofs(t *testing.T) {
 			t.Error(i, r)
 		}
 	}
+	fresh, _ := verify.Prove(d, "p", "i")
+	fresh.Proof[0].Path[0] = 99
+	if !slices.Equal(fresh.Proof[1].Path, []int{1, 0}) {
+		t.Error("paths share memory")
+	}
 	for i := range v.Proof {
 		for k, change := range []func(r *api.Refutation){
 			func(r *api.Refutation) { r.Path = r.Path[:1] }, func(r *api.Refutation) { r.Path = []int{1, 3} }, func(r *api.Refutation) { r.Node = 2 }, func(r *api.Refutation) { r.Node = 0 }, func(r *api.Refutation) { r.Atom = 2 }, func(r *api.Refutation) { r.Case = 2 },
