@@ -82,7 +82,7 @@ func look(s api.Spec, t api.Term, looks *int) (api.Term, bool, api.Errno) {
 // firstSplit returns the path to the first variable of t at whose place one of the terms that overlap with t has an
 // operation.
 func firstSplit(t api.Term, near []api.Term) ([]int, bool) {
-	near = slices.DeleteFunc(slices.Clone(near), isVariable)
+	near = slices.DeleteFunc(near, isVariable)
 	if isVariable(t) {
 		return nil, len(near) > 0
 	}

@@ -181,15 +181,15 @@ func TestNext(t *testing.T) {
 }
 
 func TestNextIsNew(t *testing.T) {
-	c := code(t, "p 1 1 yes: const 5, const 6, global 0, global 1, add, add, add, return")
+	c := code(t, "p 1 1 yes: const 4, const 5, const 6, global 0, global 1, add, add, add, add, return")
 	m, _ := vm.Start(c, call("p", 3), 0)
 	next, err := vm.Next(c, m, 7)
-	if err != api.OK || !slices.Equal(next.Frames[0].Stack, []int{5, 6, 7}) {
+	if err != api.OK || !slices.Equal(next.Frames[0].Stack, []int{4, 5, 6, 7}) {
 		t.Fatal(next, err)
 	}
 	next.Frames[0].Stack[0], next.Frames[0].Locals[0] = 99, 99
 	again, _ := vm.Next(c, m, 8)
-	if !slices.Equal(m.Frames[0].Stack, []int{5, 6}) || !slices.Equal(m.Frames[0].Locals, []int{3}) || !slices.Equal(again.Frames[0].Stack, []int{5, 6, 8}) || !slices.Equal(next.Frames[0].Stack, []int{99, 6, 7}) {
+	if !slices.Equal(m.Frames[0].Stack, []int{4, 5, 6}) || !slices.Equal(m.Frames[0].Locals, []int{3}) || !slices.Equal(again.Frames[0].Stack, []int{4, 5, 6, 8}) || !slices.Equal(next.Frames[0].Stack, []int{99, 5, 6, 7}) {
 		t.Error("machines share memory", m, next, again)
 	}
 }
