@@ -4,6 +4,7 @@ import (
 	"slices"
 
 	"heartwood/api"
+	"heartwood/copies"
 	"heartwood/heap"
 	"heartwood/typecheck"
 )
@@ -46,7 +47,7 @@ func start(d api.Desc, m api.Mem, fuel int) (*run, api.Errno) {
 	if fuel < 0 || fuel > api.MaxFuel {
 		return nil, api.ErrRange
 	}
-	r := &run{procs: map[string]procedure{}, globals: slots(d.Globals), types: map[string]int{}, mem: copied(m), fuel: fuel}
+	r := &run{procs: map[string]procedure{}, globals: slots(d.Globals), types: map[string]int{}, mem: copies.Mem(m), fuel: fuel}
 	for i, t := range d.Types {
 		r.types[t.Name] = i
 		r.fields = append(r.fields, slots(t.Fields))
@@ -63,14 +64,6 @@ func slots(l []api.Field) map[string]slot {
 		m[f.Name] = slot{i, f.Type == "int"}
 	}
 	return m
-}
-
-func copied(m api.Mem) api.Mem {
-	r := api.Mem{Globals: slices.Clone(m.Globals), Nodes: make([]api.Node, len(m.Nodes))}
-	for i, n := range m.Nodes {
-		r.Nodes[i] = api.Node{Type: n.Type, F: slices.Clone(n.F)}
-	}
-	return r
 }
 
 // run runs a call, if it is right; a fault leaves the memory as it is then.

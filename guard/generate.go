@@ -5,6 +5,7 @@ import (
 
 	"heartwood/api"
 	"heartwood/ast"
+	"heartwood/copies"
 	"heartwood/lex"
 	"heartwood/typecheck"
 )
@@ -33,7 +34,7 @@ func Generate(d api.Desc, inv string) (api.Desc, api.Errno) {
 	if len(d.Procs)+len(added) > api.MaxProcs || g.inv.Type != "" && !ast.ValidExpr(node(api.XNot, g.inv.X)) {
 		return api.Desc{}, api.ErrFull
 	}
-	r := copied(d)
+	r := copies.Desc(d)
 	r.Procs = append(r.Procs, added...)
 	return r, api.OK
 }
@@ -157,34 +158,4 @@ func when(e, value api.Expr) api.Stmt {
 // visited returns a statement that returns false, unless the visit of a reference returns true.
 func visited(typ string, e api.Expr) api.Stmt {
 	return when(node(api.XNot, api.Expr{Op: api.XCall, S: "visit_" + typ, L: []api.Expr{e}}), truth(0))
-}
-
-// copied returns a copy of a well-typed description.
-func copied(d api.Desc) api.Desc {
-	r := api.Desc{Name: d.Name, Globals: slices.Clone(d.Globals)}
-	for _, t := range d.Types {
-		r.Types = append(r.Types, api.NodeType{Name: t.Name, Fields: slices.Clone(t.Fields)})
-	}
-	for _, p := range d.Procs {
-		x, _ := ast.Proc(d, p.Name)
-		r.Procs = append(r.Procs, x)
-	}
-	same := func(e api.Expr) api.Expr { return transformed(e, func(*api.Expr) {}) }
-	for _, x := range d.Measures {
-		x.X = same(x.X)
-		r.Measures = append(r.Measures, x)
-	}
-	for _, x := range d.Invariants {
-		x.X = same(x.X)
-		r.Invariants = append(r.Invariants, x)
-	}
-	for _, x := range d.Potentials {
-		x.X = same(x.X)
-		r.Potentials = append(r.Potentials, x)
-	}
-	for _, x := range d.Bounds {
-		x.X = same(x.X)
-		r.Bounds = append(r.Bounds, x)
-	}
-	return r
 }

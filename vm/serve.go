@@ -4,6 +4,7 @@ import (
 	"slices"
 
 	"heartwood/api"
+	"heartwood/copies"
 )
 
 // server answers requests from a memory, which it changes, and notes the accesses.
@@ -23,7 +24,7 @@ func served(c api.Code, m api.Mem, call api.Call, fuel int) (*server, api.Outcom
 	if err != api.OK {
 		return nil, api.Outcome{}, err
 	}
-	s := &server{c: c, mem: copiedMem(m)}
+	s := &server{c: c, mem: copies.Mem(m)}
 	var o api.Outcome
 	for r.m.Request.Kind < api.Done {
 		n, ok := s.answer(r.m.Request)
@@ -45,14 +46,6 @@ func fitsMemory(c api.Code, m api.Mem) bool {
 	return !slices.ContainsFunc(m.Nodes, func(n api.Node) bool {
 		return n.Type < 0 || n.Type >= len(c.Fields) || len(n.F) != c.Fields[n.Type] || !areValues(n.F)
 	})
-}
-
-func copiedMem(m api.Mem) api.Mem {
-	r := api.Mem{Globals: slices.Clone(m.Globals), Nodes: make([]api.Node, len(m.Nodes))}
-	for i, n := range m.Nodes {
-		r.Nodes[i] = api.Node{Type: n.Type, F: slices.Clone(n.F)}
-	}
-	return r
 }
 
 // answer makes an access, and reports whether there is such a place.

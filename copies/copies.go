@@ -1,0 +1,70 @@
+// Package copies copies descriptions, memories, and other values with parts, so that a copy shares no memory with what
+// it was made of. Values with parts must not contain themselves.
+package copies
+
+import (
+	"slices"
+
+	"heartwood/api"
+)
+
+// each returns the copies of the elements of a list.
+func each[T any](l []T, copied func(T) T) []T {
+	r := make([]T, len(l))
+	for i, x := range l {
+		r[i] = copied(x)
+	}
+	return r
+}
+
+// Desc copies a description.
+func Desc(d api.Desc) api.Desc {
+	d.Types = each(d.Types, func(t api.NodeType) api.NodeType {
+		t.Fields = slices.Clone(t.Fields)
+		return t
+	})
+	d.Globals = slices.Clone(d.Globals)
+	d.Procs = each(d.Procs, Proc)
+	d.Measures = each(d.Measures, func(x api.Measure) api.Measure {
+		x.X = Expr(x.X)
+		return x
+	})
+	d.Invariants = each(d.Invariants, func(x api.Invariant) api.Invariant {
+		x.X = Expr(x.X)
+		return x
+	})
+	d.Potentials = each(d.Potentials, func(x api.Potential) api.Potential {
+		x.X = Expr(x.X)
+		return x
+	})
+	d.Bounds = each(d.Bounds, func(x api.Bound) api.Bound {
+		x.X = Expr(x.X)
+		return x
+	})
+	return d
+}
+
+// Proc copies a procedure.
+func Proc(p api.Proc) api.Proc {
+	p.Params, p.Locals, p.Body = slices.Clone(p.Params), slices.Clone(p.Locals), each(p.Body, stmt)
+	return p
+}
+
+func stmt(s api.Stmt) api.Stmt {
+	s.E, s.L, s.Else = each(s.E, Expr), each(s.L, stmt), each(s.Else, stmt)
+	return s
+}
+
+// Expr copies an expression.
+func Expr(e api.Expr) api.Expr {
+	e.L = each(e.L, Expr)
+	return e
+}
+
+// Mem copies a memory.
+func Mem(m api.Mem) api.Mem {
+	return api.Mem{Globals: slices.Clone(m.Globals), Nodes: each(m.Nodes, func(n api.Node) api.Node {
+		n.F = slices.Clone(n.F)
+		return n
+	})}
+}
