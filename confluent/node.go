@@ -69,7 +69,7 @@ func (s *Store) forget(ids []int, before, after api.Mem, reached []int) {
 	var lost []int
 	for _, n := range reached {
 		x := after.Nodes[n-1]
-		for _, part := range s.refs.Parts(x) {
+		for _, part := range refs.Parts(x.F, s.refs.Types[x.Type]) {
 			users[part-1] = append(users[part-1], n)
 		}
 		if ids[n-1] == 0 || !slices.Equal(x.F, before.Nodes[n-1].F) {

@@ -42,12 +42,12 @@ func Renamed(values []int, are []bool, name func(int) int) []int {
 	return l
 }
 
-// Parts returns the references of a node, other than nil, in the order of its fields.
-func (f Fields) Parts(n api.Node) []int {
+// Parts returns the references of values, other than nil, in order.
+func Parts(values []int, are []bool) []int {
 	var parts []int
-	for i, is := range f.Types[n.Type] {
-		if is && n.F[i] != 0 {
-			parts = append(parts, n.F[i])
+	for i, is := range are {
+		if is && values[i] != 0 {
+			parts = append(parts, values[i])
 		}
 	}
 	return parts

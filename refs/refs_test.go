@@ -18,10 +18,10 @@ func TestSearch(t *testing.T) {
 	if !reflect.DeepEqual(f, refs.Fields{Globals: []bool{true, false, true}, Types: [][]bool{{false, true, false}, {}}}) {
 		t.Error(f)
 	}
-	if l := f.Parts(api.Node{F: []int{5, 30, 1}}); !reflect.DeepEqual(l, []int{30}) {
+	if l := refs.Parts([]int{5, 30, 1}, f.Types[0]); !reflect.DeepEqual(l, []int{30}) {
 		t.Error(l)
 	}
-	if l := f.Parts(api.Node{F: []int{5, 0, 1}}); len(l) != 0 || len(f.Parts(api.Node{Type: 1})) != 0 {
+	if l := refs.Parts([]int{5, 0, 1}, f.Types[0]); len(l) != 0 || len(refs.Parts(nil, f.Types[1])) != 0 {
 		t.Error(l)
 	}
 	nodes := map[int][]int{70: {5, 30, 1}, 30: {6, 70, 0}, 9: {7, 9, 0}}
