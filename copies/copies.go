@@ -68,3 +68,12 @@ func Mem(m api.Mem) api.Mem {
 		return n
 	})}
 }
+
+// Machine copies a machine.
+func Machine(m api.Machine) api.Machine {
+	m.Frames = each(m.Frames, func(f api.Frame) api.Frame {
+		f.Locals, f.Stack = slices.Clone(f.Locals), slices.Clone(f.Stack)
+		return f
+	})
+	return m
+}

@@ -1,84 +1,37 @@
 package vm
 
 import (
-	"slices"
-
 	"heartwood/api"
 	"heartwood/copies"
+	"heartwood/machine"
 )
 
-// server answers requests from a memory, which it changes, and notes the accesses.
-type server struct {
-	c        api.Code
-	mem      api.Mem
-	accesses []api.Access
-	nodes    int // accesses that are not to global variables
-}
-
-// served runs a call over a copy of a memory.
-func served(c api.Code, m api.Mem, call api.Call, fuel int) (*server, api.Outcome, api.Errno) {
-	if !sound(c) || !fitsMemory(c, m) {
-		return nil, api.Outcome{}, api.ErrArg
+// served runs a call over a copy of a memory; it returns the outcome, the memory after it, and the accesses.
+func served(c api.Code, m api.Mem, call api.Call, fuel int) (api.Outcome, api.Mem, []api.Access, api.Errno) {
+	if !sound(c) || !machine.Fits(c, m) {
+		return api.Outcome{}, api.Mem{}, nil, api.ErrArg
 	}
-	r, err := started(c, call, fuel)
+	x, err := started(c, call, fuel)
 	if err != api.OK {
-		return nil, api.Outcome{}, err
+		return api.Outcome{}, api.Mem{}, nil, err
 	}
-	s := &server{c: c, mem: copies.Mem(m)}
-	var o api.Outcome
-	for r.m.Request.Kind < api.Done {
-		n, ok := s.answer(r.m.Request)
+	m = copies.Mem(m)
+	var accesses []api.Access
+	nodes := 0 // accesses that are not to global variables
+	for x.Request.Kind < api.Done {
+		n, a, ok := machine.Access(c, &m, x.Request)
 		if !ok {
-			r.fail(api.ErrType)
+			x.Request = api.Request{Kind: api.Fail, Fault: api.ErrType}
 			break
 		}
-		r.answer(n)
-	}
-	o.Fault, o.Value = r.m.Request.Fault, r.m.Request.Value
-	o.Cost = api.Cost{Compares: r.m.Compares, Nodes: s.nodes}
-	return s, o, api.OK
-}
-
-func fitsMemory(c api.Code, m api.Mem) bool {
-	if len(m.Globals) != c.Globals || len(m.Nodes) > api.MaxNodes || !areValues(m.Globals) {
-		return false
-	}
-	return !slices.ContainsFunc(m.Nodes, func(n api.Node) bool {
-		return n.Type < 0 || n.Type >= len(c.Fields) || len(n.F) != c.Fields[n.Type] || !areValues(n.F)
-	})
-}
-
-// answer makes an access, and reports whether there is such a place.
-func (s *server) answer(q api.Request) (int, bool) {
-	if q.Kind == api.Alloc {
-		if len(s.mem.Nodes) == api.MaxNodes {
-			return 0, true
+		if a.Kind != 0 {
+			accesses = append(accesses, a)
 		}
-		s.mem.Nodes = append(s.mem.Nodes, api.Node{Type: q.Field, F: make([]int, s.c.Fields[q.Field])})
-		s.note(api.Alloc, len(s.mem.Nodes), q.Field)
-		return len(s.mem.Nodes), true
+		if a.Node > 0 {
+			nodes++
+		}
+		machine.Answer(c, &x, n)
 	}
-	values := s.mem.Globals
-	if q.Node > len(s.mem.Nodes) {
-		return 0, false
-	}
-	if q.Node > 0 {
-		values = s.mem.Nodes[q.Node-1].F
-	}
-	if q.Field >= len(values) {
-		return 0, false
-	}
-	s.note(q.Kind, q.Node, q.Field)
-	if q.Kind == api.Write {
-		values[q.Field] = q.Value
-		return 0, true
-	}
-	return values[q.Field], true
-}
-
-func (s *server) note(kind, node, field int) {
-	if node > 0 {
-		s.nodes++
-	}
-	s.accesses = append(s.accesses, api.Access{Kind: kind, Node: node, Field: field})
+	o := api.Outcome{Fault: x.Request.Fault, Value: x.Request.Value, Cost: api.Cost{Compares: x.Compares, Nodes: nodes}}
+	return o, m, accesses, api.OK
 }

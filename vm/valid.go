@@ -3,16 +3,17 @@ package vm
 import (
 	"heartwood/api"
 	"heartwood/bytecode"
+	"heartwood/machine"
 )
 
 // Valid reports whether a code is sound, and a machine valid for it.
 func Valid(c api.Code, m api.Machine) bool {
-	if !sound(c) || m.Fuel < 0 || m.Fuel > api.MaxFuel || m.Compares < 0 || m.Compares > api.MaxInt || m.Idle < 0 || m.Idle > maxIdle {
+	if !sound(c) || m.Fuel < 0 || m.Fuel > api.MaxFuel || m.Compares < 0 || m.Compares > api.MaxInt || m.Idle < 0 || m.Idle > machine.MaxIdle {
 		return false
 	}
 	switch q := m.Request; q.Kind {
 	case api.Done:
-		return len(m.Frames) == 0 && isValue(q.Value) && q == api.Request{Kind: api.Done, Value: q.Value}
+		return len(m.Frames) == 0 && machine.IsValue(q.Value) && q == api.Request{Kind: api.Done, Value: q.Value}
 	case api.Fail:
 		return len(m.Frames) == 0 && isFault(q.Fault) && q == api.Request{Kind: api.Fail, Fault: q.Fault}
 	}
@@ -59,7 +60,7 @@ func validFrames(c api.Code, m api.Machine) bool {
 // so far.
 func waiting(c api.Code, f api.Frame, heights []int) (api.Instr, int, bool) {
 	code := c.Funcs[f.Func].Code
-	if len(f.Locals) != c.Funcs[f.Func].Locals || !areValues(f.Locals) || !areValues(f.Stack) || f.At < 1 || f.At > len(code) || heights[f.At-1] < 0 {
+	if len(f.Locals) != c.Funcs[f.Func].Locals || !machine.AreValues(f.Locals) || !machine.AreValues(f.Stack) || f.At < 1 || f.At > len(code) || heights[f.At-1] < 0 {
 		return api.Instr{}, 0, false
 	}
 	x := code[f.At-1]
@@ -97,5 +98,5 @@ func fits(x api.Instr, q api.Request) bool {
 			return false
 		}
 	}
-	return q == want && isValue(q.Value)
+	return q == want && machine.IsValue(q.Value)
 }

@@ -1,17 +1,72 @@
-package vm
+// Package machine runs machines and answers their requests from memories, for the layers that have checked codes,
+// machines, and memories.
+package machine
 
 import (
+	"slices"
+
 	"heartwood/api"
 	"heartwood/arith"
 )
 
-// maxIdle is how many instructions are executed from one tick to the next one.
-const maxIdle = 100000
+// MaxIdle is how many instructions are executed from one tick to the next one.
+const MaxIdle = 100000
+
+// Check returns the error of a call that is not right for a code.
+func Check(c api.Code, call api.Call) api.Errno {
+	f := find(c, call.Proc)
+	switch {
+	case f < 0:
+		return api.ErrName
+	case len(call.Args) != c.Funcs[f].Params:
+		return api.ErrSize
+	case !AreValues(call.Args):
+		return api.ErrType
+	}
+	return api.OK
+}
+
+func find(c api.Code, proc string) int {
+	return slices.IndexFunc(c.Funcs, func(f api.Func) bool { return f.Name == proc })
+}
+
+// IsValue reports whether a number can be a value.
+func IsValue(n int) bool { return -api.MaxInt <= n && n <= api.MaxInt }
+
+// AreValues reports whether all numbers can be values.
+func AreValues(l []int) bool {
+	return !slices.ContainsFunc(l, func(n int) bool { return !IsValue(n) })
+}
+
+// Start returns the machine of a right call of a sound code when it asks for the first time.
+func Start(c api.Code, call api.Call, fuel int) api.Machine {
+	m := api.Machine{Fuel: fuel}
+	r := runner{c, &m}
+	r.enter(find(c, call.Proc), call.Args)
+	r.run()
+	return m
+}
+
+// Answer goes on after an answer to the request of a machine, up to its next request. The answer and the machine must be
+// valid; the machine is changed.
+func Answer(c api.Code, m *api.Machine, n int) {
+	r := runner{c, m}
+	kind := m.Request.Kind
+	m.Request = api.Request{}
+	switch {
+	case kind == api.Alloc && n == 0:
+		r.fail(api.ErrMemory)
+		return
+	case kind != api.Write:
+		r.push(n)
+	}
+	r.run()
+}
 
 // runner runs a machine, which it changes.
 type runner struct {
 	c api.Code
-	m api.Machine
+	m *api.Machine
 }
 
 // enter adds a frame for a function.
@@ -44,24 +99,10 @@ func (r *runner) end(x api.Request) {
 
 func (r *runner) fail(err api.Errno) { r.end(api.Request{Kind: api.Fail, Fault: err}) }
 
-// answer goes on after an answer to the request, which is valid.
-func (r *runner) answer(n int) {
-	kind := r.m.Request.Kind
-	r.m.Request = api.Request{}
-	switch {
-	case kind == api.Alloc && n == 0:
-		r.fail(api.ErrMemory)
-		return
-	case kind != api.Write:
-		r.push(n)
-	}
-	r.run()
-}
-
 // run executes instructions until the machine asks for something.
 func (r *runner) run() {
 	for r.m.Request.Kind == 0 {
-		if r.m.Idle == maxIdle {
+		if r.m.Idle == MaxIdle {
 			r.fail(api.ErrLimit)
 			return
 		}
