@@ -3,40 +3,12 @@
 package machine
 
 import (
-	"slices"
-
 	"heartwood/api"
 	"heartwood/arith"
 )
 
 // MaxIdle is how many instructions are executed from one tick to the next one.
 const MaxIdle = 100000
-
-// Check returns the error of a call that is not right for a code.
-func Check(c api.Code, call api.Call) api.Errno {
-	f := find(c, call.Proc)
-	switch {
-	case f < 0:
-		return api.ErrName
-	case len(call.Args) != c.Funcs[f].Params:
-		return api.ErrSize
-	case !AreValues(call.Args):
-		return api.ErrType
-	}
-	return api.OK
-}
-
-func find(c api.Code, proc string) int {
-	return slices.IndexFunc(c.Funcs, func(f api.Func) bool { return f.Name == proc })
-}
-
-// IsValue reports whether a number can be a value.
-func IsValue(n int) bool { return -api.MaxInt <= n && n <= api.MaxInt }
-
-// AreValues reports whether all numbers can be values.
-func AreValues(l []int) bool {
-	return !slices.ContainsFunc(l, func(n int) bool { return !IsValue(n) })
-}
 
 // Start returns the machine of a right call of a sound code when it asks for the first time.
 func Start(c api.Code, call api.Call, fuel int) api.Machine {

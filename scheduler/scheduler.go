@@ -12,23 +12,13 @@ import (
 // Copied returns a copy of a state.
 func Copied(s api.Threads) api.Threads {
 	s.Mem = copies.Mem(s.Mem)
-	s.Running = copied(s.Running, copies.Machine)
+	s.Running = copies.Each(s.Running, copies.Machine)
 	s.Nodes = slices.Clone(s.Nodes)
-	s.Calls = copied(s.Calls, func(l []api.Call) []api.Call {
-		return copied(l, func(c api.Call) api.Call { return api.Call{Proc: c.Proc, Args: slices.Clone(c.Args)} })
-	})
-	s.Results = copied(s.Results, slices.Clone[[]api.Outcome])
-	s.Begins = copied(s.Begins, slices.Clone[[]int])
-	s.Ends = copied(s.Ends, slices.Clone[[]int])
+	s.Calls = copies.Calls(s.Calls)
+	s.Results = copies.Each(s.Results, slices.Clone[[]api.Outcome])
+	s.Begins = copies.Each(s.Begins, slices.Clone[[]int])
+	s.Ends = copies.Each(s.Ends, slices.Clone[[]int])
 	return s
-}
-
-func copied[T any](l []T, part func(T) T) []T {
-	var r []T
-	for _, x := range l {
-		r = append(r, part(x))
-	}
-	return r
 }
 
 // IsRunning reports whether a thread is running a call.

@@ -11,7 +11,7 @@ import (
 // isValid reports whether a code is sound, and a state valid for it.
 func isValid(c api.Code, s api.Threads) bool {
 	n := len(s.Running)
-	if !isSound(c) || !machine.Fits(c, s.Mem) || s.Fuel < 0 || s.Fuel > api.MaxFuel || s.Step < 0 || s.Step > api.MaxSteps || n < 1 || n > api.MaxThreads ||
+	if !machine.IsSound(c) || !machine.Fits(c, s.Mem) || s.Fuel < 0 || s.Fuel > api.MaxFuel || s.Step < 0 || s.Step > api.MaxSteps || n < 1 || n > api.MaxThreads ||
 		len(s.Nodes) != n || len(s.Calls) != n || len(s.Results) != n || len(s.Begins) != n || len(s.Ends) != n {
 		return false
 	}
@@ -37,26 +37,9 @@ func isValidThread(c api.Code, s api.Threads, thread int) bool {
 	if slices.ContainsFunc(calls, func(x api.Call) bool { return machine.Check(c, x) != api.OK }) || len(calls)+done+running > api.MaxOps {
 		return false
 	}
-	return len(s.Ends[thread]) == done && len(s.Begins[thread]) == done+running && areTimes(s.Begins[thread], s.Ends[thread], s.Step)
+	return len(s.Ends[thread]) == done && len(s.Begins[thread]) == done+running && machine.AreTimes(s.Begins[thread], s.Ends[thread], s.Step)
 }
 
 func isZero(m api.Machine) bool {
 	return len(m.Frames) == 0 && m.Request == api.Request{} && m.Fuel == 0 && m.Compares == 0 && m.Idle == 0
-}
-
-// areTimes reports whether calls begin and end one after the other, before a step. The last one may not have ended.
-func areTimes(begins, ends []int, step int) bool {
-	last := -1
-	for i, begin := range begins {
-		if begin <= last || begin >= step {
-			return false
-		}
-		if last = begin; i < len(ends) {
-			if ends[i] < begin || ends[i] >= step {
-				return false
-			}
-			last = ends[i]
-		}
-	}
-	return true
 }

@@ -8,7 +8,7 @@ import (
 
 // served runs a call over a copy of a memory; it returns the outcome, the memory after it, and the accesses.
 func served(c api.Code, m api.Mem, call api.Call, fuel int) (api.Outcome, api.Mem, []api.Access, api.Errno) {
-	if !sound(c) || !machine.Fits(c, m) {
+	if !machine.IsSound(c) || !machine.Fits(c, m) {
 		return api.Outcome{}, api.Mem{}, nil, api.ErrArg
 	}
 	x, err := started(c, call, fuel)

@@ -8,7 +8,7 @@ import (
 
 // Valid reports whether a code is sound, and a machine valid for it.
 func Valid(c api.Code, m api.Machine) bool {
-	if !sound(c) || m.Fuel < 0 || m.Fuel > api.MaxFuel || m.Compares < 0 || m.Compares > api.MaxInt || m.Idle < 0 || m.Idle > machine.MaxIdle {
+	if !machine.IsSound(c) || m.Fuel < 0 || m.Fuel > api.MaxFuel || m.Compares < 0 || m.Compares > api.MaxInt || m.Idle < 0 || m.Idle > machine.MaxIdle {
 		return false
 	}
 	switch q := m.Request; q.Kind {
