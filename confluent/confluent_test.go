@@ -343,6 +343,10 @@ func TestErrors(t *testing.T) {
 			t.Error(n, err)
 		}
 	}
+	for _, fuel := range []int{0, api.MaxFuel} {
+		r.call(1, call("push", 5), fuel)
+		r.meld(1, 1, "same", fuel)
+	}
 	r.check()
 	for _, bad := range []api.Desc{{}, {Name: "1"}, {Name: "d", Globals: []api.Field{{Name: "a", Type: "b"}}}} {
 		if s, err := confluent.New(bad); s != nil || err != api.ErrArg {

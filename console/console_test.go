@@ -87,6 +87,8 @@ func TestStores(t *testing.T) {
 	r.says("call s 0 pop", "fault "+code(api.ErrNil))
 	r.says("call s 0 loop", "fault "+code(api.ErrFuel))
 	r.says("call s 2 none", "4 0")
+	r.says("peek s 0 push 1099511627776", "1")
+	r.says("peek s 0 push -1099511627776", "1")
 	r.says("peek s 0 flip 1", "1")
 	r.says("peek s 0 flip 0", "2")
 	r.says("show s", "-1 0 1 1 2")
@@ -113,11 +115,13 @@ func TestStores(t *testing.T) {
 // The fuel of calls is 10,000 ticks.
 func TestFuel(t *testing.T) {
 	r := newTester(t)
-	r.says("desc d { var n int proc count(k int) int { while 0 < k { k = k - 1; } return k; } }", "d")
+	r.says("desc d { var n int proc count(k int) int { while 0 < k { k = k - 1; } return k; } proc more(k int) int { k = k; while 0 < k { k = k - 1; } return k; } }", "d")
 	r.says("store s d", "s")
 	// Two ticks for each round, and two more.
 	r.says("peek s 0 count 4999", "0")
 	r.says("peek s 0 count 5000", "fault "+code(api.ErrFuel))
+	r.says("peek s 0 more 4998", "0")
+	r.says("peek s 0 more 4999", "fault "+code(api.ErrFuel))
 	r.says("call s 0 count 4999", "1 0")
 	r.says("call s 0 count 5000", "fault "+code(api.ErrFuel))
 }
@@ -239,6 +243,21 @@ func TestRatios(t *testing.T) {
 		r.refuses("ratio "+line, want)
 	}
 	r.refuses("ratio", api.ErrForm)
+}
+
+// Bytes that stand in comments of descriptions, where the parser passes over them.
+func TestBytes(t *testing.T) {
+	r := newTester(t)
+	for b := range 256 {
+		line := "desc d { } #" + string([]byte{byte(b)})
+		if b == ' ' || b < 32 || b > 126 {
+			r.refuses(line, api.ErrForm)
+		} else {
+			r.says(line, "d")
+			r.says("drop d", "")
+		}
+	}
+	r.refuses("desc d {\t}", api.ErrForm)
 }
 
 // P56.2: errors of the forms, and of the table, in their order.

@@ -198,6 +198,22 @@ func TestFullContents(t *testing.T) {
 	}
 }
 
+// What is asked of elements that are next to those that there are, and a text with as many characters as there may be.
+func TestNativeLimits(t *testing.T) {
+	sets := []api.Op{op(api.SetsSize, 0), op(api.SetsMake), op(api.SetsSize, 0), op(api.SetsSize, 1), op(api.SetsUnion, 0, 1), op(api.SetsUnion, 1, 0), op(api.SetsSame, -1, 0), op(api.SetsMake), op(api.SetsSame, 1, 0), op(api.SetsUnion, 1, 0), op(api.SetsUnion, 0, 1), op(api.SetsCount)}
+	if same, difference, err := equivalence.Compare(api.Sets, api.Variant{Name: "forest"}, sets); !same || err != api.OK {
+		t.Error(difference, err)
+	}
+	var texts []api.Op
+	for range 7 {
+		texts = append(texts, op(api.TextAppend, slices.Repeat([]int{7}, 64)...))
+	}
+	texts = append(texts, op(api.TextAppend, slices.Repeat([]int{8}, 53)...), op(api.TextAppend, slices.Repeat([]int{8}, 52)...), op(api.TextSize), op(api.TextAppend, 9), op(api.TextCount, 8, 8), op(api.TextFind, 9))
+	if same, difference, err := equivalence.Compare(api.Text, api.Variant{Name: "suffixindex"}, texts); !same || err != api.OK {
+		t.Error(difference, err)
+	}
+}
+
 // costs computes the costs of a script by the interpreter, or in blocks.
 func costs(t *testing.T, base string, size int, l []api.Op) []api.Cost {
 	t.Helper()
@@ -239,6 +255,12 @@ func TestCosts(t *testing.T) {
 				t.Fatal(v, got, err, want)
 			}
 		}
+		// More blocks than the cache has.
+		script = n.script(kind, base, 100)
+		_, got, err := equivalence.Run(kind, api.Variant{Name: "external", Base: base, N: 1}, script)
+		if want := costs(t, base, 1, script); !slices.Equal(got, want) || err != api.OK {
+			t.Fatal(base, got, err, want)
+		}
 		// One thread with all calls has the same outcomes.
 		d, _ := library.Load(base)
 		c, _ := bytecode.Compile(d)
@@ -249,7 +271,7 @@ func TestCosts(t *testing.T) {
 			calls = append(calls, x)
 		}
 		s, _ := stm.New(c, m, [][]api.Call{calls}, 100000)
-		s, err := stm.Finish(c, s)
+		s, err = stm.Finish(c, s)
 		if err != api.OK {
 			t.Fatal(err)
 		}

@@ -11,7 +11,6 @@ import (
 	"heartwood/eval"
 	"heartwood/heap"
 	"heartwood/library"
-	"heartwood/model"
 	"heartwood/parser"
 	"heartwood/typecheck"
 )
@@ -252,18 +251,17 @@ func TestTestErrors(t *testing.T) {
 	if l, difference, err := equivalence.Shrink(missing, "list", []api.Op{op(api.DictPut, 1, 2), op(api.DictGet, 1)}); l != nil || !sameDifference(difference, api.Difference{}) || err != api.ErrNone {
 		t.Error(l, difference, err)
 	}
-	if same, _, err := equivalence.Test(d, "list", nil); !same || err != api.OK {
-		t.Error(same, err)
-	}
-	s, _ := model.New(api.Dict)
-	if len(s.Rows) != 0 {
-		t.Error(s)
+	for _, l := range [][]api.Op{nil, long[:100]} {
+		if same, _, err := equivalence.Test(d, "list", l); !same || err != api.OK {
+			t.Error(same, err)
+		}
 	}
 }
 
 // A loop uses up 1,000 ticks; with more fuel it would end.
 func TestFuel(t *testing.T) {
-	d := parse(t, "desc d { var c int proc size() int { c = 0; while c < 400 { c = c + 1; } return 0; } proc rank(k int) int { c = 0; while c < 600 { c = c + 1; } return 0; } }")
+	d := parse(t, "desc d { var c int proc size() int { c = 0; c = 0; while c < 498 { c = c + 1; } return 0; } proc rank(k int) int { c = 0; while c < 499 { c = c + 1; } return 0; } }")
+	// Of 498 rounds there are 1,000 ticks with three further statements, and the last look at the condition.
 	if same, _, err := equivalence.Test(d, "list", []api.Op{op(api.DictSize)}); !same || err != api.OK {
 		t.Error(same, err)
 	}

@@ -370,6 +370,10 @@ func TestRunErrors(t *testing.T) {
 	}
 	m, _ = heap.New(d)
 	_, m, _ = eval.Run(d, m, call("push", 1), 100)
+	for _, fuel := range []int{0, 1, api.MaxFuel} {
+		checkRun(t, d, m, []int{7}, api.MaxArgs, api.MaxList, call("push", 1), fuel)
+		checkScript(t, d, []api.Call{call("push", 1), call("walk")}, 4, api.MaxArgs, api.MaxList, fuel)
+	}
 	// Each round of long has two ticks less one, and two accesses.
 	if l, err := external.Trace(d, m, []int{7}, 1, call("long"), api.MaxSteps); len(l) != api.MaxSteps || err != api.OK {
 		t.Error(len(l), err)

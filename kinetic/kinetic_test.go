@@ -236,6 +236,12 @@ func TestErrors(t *testing.T) {
 	}
 	newList(t, nil)
 	newList(t, many[1:])
+	if l, err := kinetic.Order(many[1:], zero); len(l) != api.MaxArgs || err != api.OK {
+		t.Error(l, err)
+	}
+	if k, err := kinetic.NewTournament(many[1:]); k == nil || err != api.OK {
+		t.Error(err)
+	}
 }
 
 // P34.2, P34.3, and P34.6: lists that advance by many and by few steps, with many points at one place.

@@ -394,6 +394,11 @@ func TestInvalid(t *testing.T) {
 	checkErrors(t, other, []api.Event{good}, api.ErrArg)
 	checkErrors(t, api.State{}, nil, api.ErrArg)
 	checkErrors(t, api.State{Kind: api.Heap, Rows: [][]int{{2}, {1}}}, nil, api.ErrArg)
+	for _, e := range []api.Event{event(api.MaxThreads-1, api.MaxSteps, api.MaxSteps, get, api.Res{Err: api.ErrNone}), event(0, api.MaxSteps, -1, get, api.Res{}), event(0, 0, 0, get, api.Res{Err: api.ErrNone})} {
+		if !linearizable.Valid([]api.Event{e}) || !checkHistory(t, s, []api.Event{e}) {
+			t.Error(e)
+		}
+	}
 	// An operation that two kinds have.
 	size := []api.Event{event(0, 1, 2, op(api.HeapSize), api.Res{})}
 	heap, _ := model.New(api.Heap)

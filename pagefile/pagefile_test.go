@@ -342,6 +342,39 @@ func TestTorn(t *testing.T) {
 	}
 }
 
+// As many bytes as there may be, exactly; the greatest After; and a file of one page.
+func TestExactLimits(t *testing.T) {
+	empty := record(nil, nil)
+	most := api.MaxBytes / len(empty)
+	full := bytes.Repeat(empty, most)
+	d := api.Disk{Page: 8, Data: full[len(empty):], After: api.MaxBytes}
+	if !pagefile.Valid(d) {
+		t.Fatal("not valid")
+	}
+	d, err := pagefile.Commit(d, nil, nil)
+	if len(d.Data) != api.MaxBytes || d.After != api.MaxBytes-len(empty) || err != api.OK {
+		t.Error(len(d.Data), d.After, err)
+	}
+	if n, err := pagefile.Commits(d); n != most || err != api.OK {
+		t.Error(n, err)
+	}
+	if x, err := pagefile.Commit(d, nil, nil); !isZero(x) || err != api.ErrFull {
+		t.Error(err)
+	}
+	if d, err := pagefile.Checkpoint(d); len(d.Data) != 0 || d.Synced != 0 || err != api.OK {
+		t.Error(len(d.Data), err)
+	}
+	newTester(t, 8, api.MaxBytes).check()
+	for _, after := range []int{-1, 20, 19} {
+		r := newTester(t, 8, -1)
+		r.commit([]int{0}, [][]byte{{1, 2, 3, 4, 5, 6, 7, 8}})
+		r.commit([]int{0}, [][]byte{{8, 7, 6, 5, 4, 3, 2, 1}})
+		r.disk.After = after
+		r.checkpoint()
+		r.checkpoint()
+	}
+}
+
 // All pages, and bytes up to the limit.
 func TestLimits(t *testing.T) {
 	var pages []int

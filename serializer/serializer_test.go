@@ -336,6 +336,29 @@ func TestRoom(t *testing.T) {
 		if len(r.all) != 30 {
 			t.Error(len(r.all))
 		}
+		for memories, nodes := range map[int]int{8: 912, 3: 919} {
+			r = newTester(t, d, page, -1)
+			var l []api.Mem
+			for i := range memories {
+				count := nodes / memories
+				if i == 0 {
+					count += nodes % memories
+				}
+				x := api.Mem{Globals: []int{count, i}}
+				for k := range count {
+					x.Nodes = append(x.Nodes, api.Node{F: []int{i + k, k}})
+				}
+				l = append(l, x)
+			}
+			want := api.OK
+			if memories == 3 {
+				want = api.ErrFull
+			}
+			if n, err := r.bytes(l...), r.save(l...); n != 12001-memories/8 || err != want {
+				t.Error(n, err)
+			}
+			r.check()
+		}
 		// Different last chunks, and full ones, with as many pages as there may be.
 		r = newTester(t, d, page, -1)
 		for i := range 30 {

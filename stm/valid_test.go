@@ -12,7 +12,10 @@ import (
 func isValid(t *testing.T, c api.Code, s api.Transactions) bool {
 	t.Helper()
 	_, err := stm.Enabled(c, s)
-	_, _, err1 := stm.Run(c, s, nil)
+	_, done, err1 := stm.Run(c, s, nil)
+	if done != 0 {
+		t.Fatal(done, err1)
+	}
 	_, err2 := stm.Finish(c, s)
 	_, err3 := stm.Step(c, s, -1)
 	if (err == api.ErrArg) != (err1 == api.ErrArg) || (err == api.ErrArg) != (err2 == api.ErrArg) || (err == api.ErrArg) != (err3 == api.ErrArg) {
@@ -60,9 +63,10 @@ func TestInvalidStates(t *testing.T) {
 		func(s *api.Transactions) { s.Active[0].Writes = [][3]int{{0, 0, 1}, {0, 0, 2}} }, func(s *api.Transactions) { s.Active[0].Writes = [][3]int{{0, 2, 1}} }, func(s *api.Transactions) { s.Active[0].Writes = [][3]int{{2, 0, 1}} }, func(s *api.Transactions) { s.Active[0].Writes = [][3]int{{0, 1, api.MaxInt + 1}} }, func(s *api.Transactions) { s.Active[0].Writes = [][3]int{{0, 1, -api.MaxInt - 1}} },
 		func(s *api.Transactions) { s.Active[2].Start = 1 }, func(s *api.Transactions) { s.Active[2].Nodes = 1 }, func(s *api.Transactions) { s.Active[2].Reads = [][2]int{{0, 0}} }, func(s *api.Transactions) { s.Active[2].Writes = [][3]int{{0, 0, 0}} }, func(s *api.Transactions) { s.Active[2].Running.Idle = 1 }, func(s *api.Transactions) { s.Active[2] = s.Active[0] },
 		func(s *api.Transactions) { s.Results[0] = nil }, func(s *api.Transactions) { s.Results[1] = append(s.Results[1], api.Outcome{}) }, func(s *api.Transactions) { s.Ends[0] = nil }, func(s *api.Transactions) { s.Begins[0] = s.Begins[0][:1] }, func(s *api.Transactions) { s.Begins[1] = append(s.Begins[1], 9) },
-		func(s *api.Transactions) { s.Begins[0][0] = -1 }, func(s *api.Transactions) { s.Begins[0][1] = 11 }, func(s *api.Transactions) { s.Ends[0][0] = s.Begins[0][0] - 1 }, func(s *api.Transactions) { s.Ends[0][0] = 11 }, func(s *api.Transactions) { s.Ends[0][0] = s.Begins[0][1] },
+		func(s *api.Transactions) { s.Begins[0][0] = -1 }, func(s *api.Transactions) { s.Begins[0][1] = 11 }, func(s *api.Transactions) { s.Ends[0][0] = s.Begins[0][0] - 1 }, func(s *api.Transactions) { s.Ends[0][0] = 11 }, func(s *api.Transactions) { s.Active[1], s.Begins[1], s.Ends[1][0] = api.Transaction{}, s.Begins[1][:1], 11 }, func(s *api.Transactions) { s.Ends[0][0] = s.Begins[0][1] },
 		func(s *api.Transactions) { s.Order = nil }, func(s *api.Transactions) { s.Order = append(s.Order, [2]int{2, 0}) }, func(s *api.Transactions) { s.Order = append(s.Order, [2]int{0, 0}) }, func(s *api.Transactions) { s.Order = append(s.Order, [2]int{0, 1}) }, func(s *api.Transactions) { slices.Reverse(s.Order) },
 		func(s *api.Transactions) { s.Order[0] = [2]int{-1, 0} }, func(s *api.Transactions) { s.Order[0] = [2]int{3, 0} }, func(s *api.Transactions) { s.Order[0] = [2]int{0, -1} }, func(s *api.Transactions) { s.Ends[1][0] = s.Ends[0][0] },
+		func(s *api.Transactions) { s.Begins[1][0], s.Ends[1][0] = 2, s.Ends[0][0] }, func(s *api.Transactions) { s.Begins[1][0], s.Ends[1][0] = 2, s.Ends[0][0]-1 },
 	}
 	for i, f := range refused {
 		x := clone(s)

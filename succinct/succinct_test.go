@@ -362,8 +362,8 @@ func TestNil(t *testing.T) {
 	var m *succinct.Monotone
 	for range 2 {
 		n, err := m.Get(0)
-		_, _, err1 := m.Next(0)
-		if n != 0 || m == nil && (err != api.ErrArg || err1 != api.ErrArg) || m != nil && (err != api.ErrRange || err1 != api.ErrNone) || m.Len() != 0 || m.Space() != 0 {
+		i, x, err1 := m.Next(0)
+		if n != 0 || i != 0 || x != 0 || m == nil && (err != api.ErrArg || err1 != api.ErrArg) || m != nil && (err != api.ErrRange || err1 != api.ErrNone) || m.Len() != 0 || m.Space() != 0 {
 			t.Error(n, err, err1)
 		}
 		m = &succinct.Monotone{}

@@ -114,39 +114,20 @@ func TestInvalidScripts(t *testing.T) {
 			}
 		}
 	}
-	// A text of exactly MaxText bytes, and one that is longer by one.
-	l := slices.Repeat([]api.Op{op(api.TextAppend, slices.Repeat([]int{200}, 64)...)}, 248)
-	base := len("script text\n") + 248*(len("append")+4*64+1)
-	for rest := api.MaxText - base; ; {
-		if k := rest - len("append\n"); k >= 2 && k <= 4*64 {
-			o := op(api.TextAppend, slices.Repeat([]int{200}, k/4)...)
-			if k%4 > 0 {
-				o.Args = append(o.Args[:len(o.Args)-1], slices.Repeat([]int{20}, 1)...)
-				k -= 1
-			}
-			l = append(l, o)
-			break
-		}
-		l = append(l, op(api.TextSize))
-		rest -= len("size\n")
-	}
+	// A text of exactly MaxText bytes: 12 of the first line, 263 of most others, 37 of the last one.
+	l := slices.Repeat([]api.Op{op(api.TextAppend, slices.Repeat([]int{200}, 64)...)}, 249)
+	last := append(slices.Repeat([]int{200}, 7), 9)
+	l = append(l, op(api.TextAppend, last...))
 	s, err := workload.Text(api.Text, l)
-	for err == api.OK && len(s) < api.MaxText {
-		last := &l[len(l)-1]
-		i := slices.IndexFunc(last.Args, func(n int) bool { return n < 100 })
-		if i < 0 {
-			break
-		}
-		last.Args[i] = 200
-		s, err = workload.Text(api.Text, l)
-	}
-	if err != api.OK || len(s) > api.MaxText || len(s) < api.MaxText-4 {
+	if len(s) != api.MaxText || err != api.OK {
 		t.Fatal(len(s), err)
 	}
 	if _, got, _, err := workload.Parse(s); !sameOps(got, l) || err != api.OK {
 		t.Error(err)
 	}
-	if s, err := workload.Text(api.Text, append(l, op(api.TextSize))); s != "" || err != api.ErrFull {
+	last[7] = 99
+	l[249] = op(api.TextAppend, last...)
+	if s, err := workload.Text(api.Text, l); s != "" || err != api.ErrFull {
 		t.Error(len(s), err)
 	}
 }
