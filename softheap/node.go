@@ -42,20 +42,22 @@ type node struct {
 }
 
 // refill gives items to a node that has children, but no items. Nodes of high even ranks take the items of two
-// descents, those of the first one being corrupted.
+// descents, those of the first one being corrupted; if raising is false, as when heaps are melded, they take those of
+// one, and no current key changes. Two trees are joined thus in a step for each rank, which is a constant for each
+// insertion, as half as many trees are joined at each rank as at the one below.
 //
 // A node has thus at most 2^ceil(j/2) items at the rank rate + 2 + j, and one item up to the rank rate + 2. After i
 // insertions there are at most i / 2^rank nodes of a rank. So the items of the nodes above the rank rate + 2 are at most
 // i / 2^(rate + 2) times 2/2 + 2/4 + 4/8 + 4/16 + .. = 3: less than i / 2^rate.
-func (h *Heap) refill(x *node) {
-	h.pull(x)
-	if x.rank > h.rate+2 && x.rank%2 == 0 && x.left != nil {
-		h.pull(x)
+func (h *Heap) refill(x *node, raising bool) {
+	h.pull(x, raising)
+	if raising && x.rank > h.rate+2 && x.rank%2 == 0 && x.left != nil {
+		h.pull(x, raising)
 	}
 }
 
 // pull moves the items of the child with the least key into a node; a child that cannot be refilled is removed.
-func (h *Heap) pull(x *node) {
+func (h *Heap) pull(x *node, raising bool) {
 	if x.right != nil && x.right.group.key < x.left.group.key {
 		x.left, x.right = x.right, x.left
 	}
@@ -63,7 +65,7 @@ func (h *Heap) pull(x *node) {
 	h.join(x, child.group)
 	child.group = nil
 	if child.left != nil {
-		h.refill(child)
+		h.refill(child, raising)
 	} else {
 		x.left, x.right = x.right, nil
 	}

@@ -107,26 +107,32 @@ func (s *tester) deleteMin() (int, int) {
 	return id, key
 }
 
-// meld melds another heap into this one.
+// meld melds another heap into this one: items that are in it get the next identifiers, and those that were removed use
+// up the ones after these. No current key changes.
 func (s *tester) meld(o *tester) {
 	s.t.Helper()
-	var want []int
+	s.check()
+	o.check()
+	var want, removed []int
 	for i, key := range o.own {
-		id := -1
-		if last, in := o.current[i]; in {
-			id = len(s.own)
-			s.current[id] = last
+		last, in := o.current[i]
+		if !in {
+			want = append(want, -1)
+			removed = append(removed, key)
+			continue
 		}
-		want = append(want, id)
+		want = append(want, len(s.own))
+		s.current[len(s.own)] = last
 		s.own = append(s.own, key)
 	}
-	for id := range o.current {
-		if now, _ := o.heap.Current(id); now != o.current[id] {
-			s.t.Fatal("unknown key")
-		}
-	}
+	s.own = append(s.own, removed...)
 	if l, err := s.heap.Meld(o.heap); err != api.OK || !slices.Equal(l, want) {
 		s.t.Fatal("Meld", l, err, want)
+	}
+	for id, last := range s.current {
+		if now, err := s.heap.Current(id); now != last || err != api.OK {
+			s.t.Fatal("Meld", id, now, err, last)
+		}
 	}
 	*o = tester{t: s.t, heap: o.heap, rate: o.rate, current: map[int]int{}}
 	o.check()
@@ -197,6 +203,7 @@ func TestGreatHeaps(t *testing.T) {
 
 // P33.4
 func TestMeld(t *testing.T) {
+	most := 0
 	for _, rate := range []int{0, 1, 2, 5} {
 		n := numbers(rate + 3)
 		s := newTester(t, rate)
@@ -222,6 +229,121 @@ func TestMeld(t *testing.T) {
 			s.deleteMin()
 		}
 		s.check()
+		most = max(most, s.most)
+	}
+	if most < 20 {
+		t.Error(most)
+	}
+}
+
+// Heaps that are themselves melded from small ones, down to single items, and lose items in between.
+func TestMeldMelded(t *testing.T) {
+	for rate := range 4 {
+		for _, size := range []int{1, 2, 3, 8, 16} {
+			n := numbers(10*rate + size)
+			s := newTester(t, rate)
+			for range 12 {
+				o := newTester(t, rate)
+				for range 9 {
+					part := newTester(t, rate)
+					for range size {
+						part.insert(n.below(1000))
+					}
+					if n.below(2) > 0 {
+						part.deleteMin()
+					}
+					o.meld(part)
+					if n.below(3) == 0 {
+						o.deleteMin()
+					}
+				}
+				s.meld(o)
+				s.deleteMin()
+				s.insert(n.below(1000))
+			}
+			for len(s.current) > 0 {
+				s.deleteMin()
+				s.check()
+			}
+		}
+	}
+}
+
+// The items of the other heap that were removed leave no gaps between the new identifiers.
+func TestMeldIdentifiers(t *testing.T) {
+	for rate := range 21 {
+		a, b := newTester(t, rate), newTester(t, rate)
+		a.insert(4)
+		b.insert(1)
+		b.insert(6)
+		b.insert(2)
+		b.deleteMin()
+		if l, err := a.heap.Meld(b.heap); !slices.Equal(l, []int{-1, 1, 2}) || err != api.OK {
+			t.Fatal(rate, l, err)
+		}
+		a.own = []int{4, 6, 2, 1}
+		a.current = map[int]int{0: 4, 1: 6, 2: 2}
+		a.check()
+		if key, err := a.heap.Current(3); key != 0 || err != api.ErrNone {
+			t.Fatal(rate, key, err)
+		}
+		a.insert(0) // it gets the identifier 4
+		if rate > 2 {
+			for _, want := range []int{4, 2, 0, 1} {
+				if id, _ := a.deleteMin(); id != want {
+					t.Fatal(rate, id, want)
+				}
+			}
+		}
+
+		// Of two items with one key either may be removed.
+		empty, o := newTester(t, rate), newTester(t, rate)
+		o.insert(0)
+		o.insert(0)
+		removed, _ := o.deleteMin()
+		want := []int{0, 0}
+		want[removed] = -1
+		if l, err := empty.heap.Meld(o.heap); !slices.Equal(l, want) || err != api.OK {
+			t.Fatal(rate, l, err, want)
+		}
+		if l := empty.heap.Items(); !slices.Equal(l, []int{0}) || empty.heap.Inserted() != 2 {
+			t.Fatal(rate, l, empty.heap.Inserted())
+		}
+		if next, err := empty.heap.Insert(5); next != 2 || err != api.OK {
+			t.Fatal(rate, next, err)
+		}
+
+		// All items were removed: identifiers are used up all the same.
+		empty, o = newTester(t, rate), newTester(t, rate)
+		for i := range 3 {
+			o.insert(i)
+		}
+		for range 3 {
+			o.deleteMin()
+		}
+		empty.meld(o)
+		empty.deleteMin()
+		empty.insert(1)
+	}
+}
+
+// Meld raises no current key, though many trees of the same ranks become one.
+func TestMeldKeepsKeys(t *testing.T) {
+	for _, rate := range []int{0, 1, 2} {
+		for size := 1; size <= api.MaxOps/2; size *= 2 {
+			a, b := newTester(t, rate), newTester(t, rate)
+			for i := range size {
+				a.insert(i * 37 % 64)
+				b.insert(i * 29 % 64)
+			}
+			a.meld(b)
+			for range size {
+				a.deleteMin()
+			}
+			a.check()
+			a.insert(0)
+			a.check()
+		}
 	}
 }
 
